@@ -38,10 +38,10 @@ func Degrees(g api.Graph) ([]int, api.Errno) {
 
 // Parts tells of each node the least node that it is linked with.
 func Parts(g api.Graph) ([]int, api.Errno) {
-	if wrong := Check(g); wrong != api.OK {
+	around, wrong := Neighbours(g)
+	if wrong != api.OK {
 		return nil, wrong
 	}
-	around := neighbours(g)
 	parts := make([]int, g.N)
 	for node := range parts {
 		parts[node] = bits.TrailingZeros32(linked(around, node))
@@ -51,15 +51,28 @@ func Parts(g api.Graph) ([]int, api.Errno) {
 
 // Dist tells of each node, of each node the least number of edges of a way between them; -1, if there is none.
 func Dist(g api.Graph) ([][]int, api.Errno) {
-	if wrong := Check(g); wrong != api.OK {
+	around, wrong := Neighbours(g)
+	if wrong != api.OK {
 		return nil, wrong
 	}
-	around := neighbours(g)
 	dist := make([][]int, g.N)
 	for node := range dist {
 		dist[node] = distFrom(around, node)
 	}
 	return dist, api.OK
+}
+
+// Neighbours gives of each node the word of those that it has an edge with.
+func Neighbours(g api.Graph) ([]uint32, api.Errno) {
+	if wrong := Check(g); wrong != api.OK {
+		return nil, wrong
+	}
+	around := make([]uint32, g.N)
+	for _, e := range g.Edges {
+		around[e.A] |= 1 << e.B
+		around[e.B] |= 1 << e.A
+	}
+	return around, api.OK
 }
 
 // pair is two nodes, the lesser one first, so that an edge is the same from both of its ends.
@@ -84,16 +97,6 @@ func checkEdge(n int, e api.Edge, met map[pair]int) api.Errno {
 
 func isNode(n, node int) bool {
 	return node >= 0 && node < n
-}
-
-// neighbours gives of each node the word of those that it has an edge with. The graph must have passed Check.
-func neighbours(g api.Graph) []uint32 {
-	around := make([]uint32, g.N)
-	for _, e := range g.Edges {
-		around[e.A] |= 1 << e.B
-		around[e.B] |= 1 << e.A
-	}
-	return around
 }
 
 // nodesOf goes through the nodes of a word, rising.

@@ -124,6 +124,21 @@ func TestCallsTellCheckFirst(t *testing.T) {
 		if l, got := Dist(c.g); got != c.want || len(l) != 0 {
 			t.Errorf("Dist of %s: %v, %d, want %d", c.name, l, got, c.want)
 		}
+		if l, got := Neighbours(c.g); got != c.want || len(l) != 0 {
+			t.Errorf("Neighbours of %s: %v, %d, want %d", c.name, l, got, c.want)
+		}
+	}
+}
+
+// Neighbours of a few nodes, one of them without an edge.
+func TestNeighbours(t *testing.T) {
+	g := api.Graph{N: 4, Edges: edgesOf([2]int{3, 1}, [2]int{1, 0})}
+	want := []uint32{0b0010, 0b1001, 0, 0b0010}
+	if got, err := Neighbours(g); err != api.OK || !slices.Equal(got, want) {
+		t.Errorf("got %b, %d, want %b", got, err, want)
+	}
+	if got, err := Neighbours(api.Graph{}); err != api.OK || len(got) != 0 {
+		t.Errorf("of nothing: %b, %d", got, err)
 	}
 }
 
