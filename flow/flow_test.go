@@ -368,6 +368,43 @@ func TestFeesAndAgain(t *testing.T) {
 	}
 }
 
+// Send takes more nodes and arcs than may be handed in to the other calls, and tells a flow of the greatest value.
+func TestSendBeyondLimits(t *testing.T) {
+	row := api.Net{N: 32}
+	for node := range 31 {
+		for i := range 3 {
+			row.Arcs = append(row.Arcs, api.Arc{From: node, To: node + 1, Most: int64(node%5 + i)})
+		}
+	}
+	if goes := Send(row, 0, 31); !isFlow(row, 0, 31, goes, 3) {
+		t.Errorf("a row of 32 nodes: %v", goes)
+	}
+	several := 0
+	for seed := range uint(100) {
+		n := spreadNet(14, 60, 9, seed)
+		_, size, _ := cutByTrial(n, 0, 13)
+		if goes := Send(n, 0, 13); !isFlow(n, 0, 13, goes, size) {
+			t.Errorf("Send of %v: %v, want a flow of %d", n, goes, size)
+		}
+		if size > 10 {
+			several++
+		}
+	}
+	if several < 20 {
+		t.Errorf("a poor spread: only %d with more than 10", several)
+	}
+}
+
+// Send tells what Most tells, where both take the net.
+func TestSendAsMost(t *testing.T) {
+	for _, c := range append(plainNets(), knottyNets()...) {
+		_, goes, _ := Most(c.n, c.from, c.to)
+		if got := Send(c.n, c.from, c.to); !slices.Equal(got, goes) {
+			t.Errorf("%s: %v, and Most tells %v", c.name, got, goes)
+		}
+	}
+}
+
 // P3: neither the list that is handed in nor what lies behind its length is changed or read, nor is an answer kept.
 func TestMemory(t *testing.T) {
 	whole := append(arcs([3]int{0, 1, 5}, [3]int{1, 2, 3}), slices.Repeat([]api.Arc{{From: 0, To: 2, Most: 8}, {From: 77, To: 77, Most: -1}}, 20)...)

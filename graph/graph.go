@@ -3,6 +3,7 @@ package graph
 
 import (
 	"iter"
+	"math"
 	"math/bits"
 
 	"teamster/api"
@@ -44,7 +45,7 @@ func Parts(g api.Graph) ([]int, api.Errno) {
 	}
 	parts := make([]int, g.N)
 	for node := range parts {
-		parts[node] = bits.TrailingZeros32(linked(around, node))
+		parts[node] = bits.TrailingZeros32(Linked(around, node, anywhere))
 	}
 	return parts, api.OK
 }
@@ -75,6 +76,23 @@ func Neighbours(g api.Graph) ([]uint32, api.Errno) {
 	return around, api.OK
 }
 
+// Linked gives the word of the nodes that a node is linked with by ways whose other nodes are all in a word, itself among them.
+func Linked(around []uint32, from int, within uint32) uint32 {
+	part := uint32(0)
+	for _, layer := range layers(around, from, within) {
+		part |= layer
+	}
+	return part
+}
+
+// IsNode says whether a number is a node of a graph or net of n nodes.
+func IsNode(n, node int) bool {
+	return node >= 0 && node < n
+}
+
+// anywhere is the word that keeps ways from nothing.
+const anywhere = math.MaxUint32
+
 // pair is two nodes, the lesser one first, so that an edge is the same from both of its ends.
 type pair struct{ low, high int }
 
@@ -85,7 +103,7 @@ func pairOf(e api.Edge) pair {
 // checkEdge tells what is wrong with an edge among n nodes, met being the pairs of the edges ahead of it.
 func checkEdge(n int, e api.Edge, met map[pair]int) api.Errno {
 	switch {
-	case !isNode(n, e.A) || !isNode(n, e.B):
+	case !IsNode(n, e.A) || !IsNode(n, e.B):
 		return api.ErrArg
 	case e.A == e.B || met[pairOf(e)] > 0:
 		return api.ErrForm
@@ -93,10 +111,6 @@ func checkEdge(n int, e api.Edge, met map[pair]int) api.Errno {
 		return api.ErrRange
 	}
 	return api.OK
-}
-
-func isNode(n, node int) bool {
-	return node >= 0 && node < n
 }
 
 // nodesOf goes through the nodes of a word, rising.
@@ -110,8 +124,8 @@ func nodesOf(word uint32) iter.Seq[int] {
 	}
 }
 
-// layers goes through the distances from a node, rising, each with the word of the nodes that are so far away.
-func layers(around []uint32, from int) iter.Seq2[int, uint32] {
+// layers goes through the distances from a node, rising, each with the word of the nodes that are so far away by ways whose other nodes are all in a word.
+func layers(around []uint32, from int, within uint32) iter.Seq2[int, uint32] {
 	return func(yield func(int, uint32) bool) {
 		layer := uint32(1) << from
 		met := layer
@@ -119,7 +133,7 @@ func layers(around []uint32, from int) iter.Seq2[int, uint32] {
 			if !yield(far, layer) {
 				return
 			}
-			layer = beside(around, layer) &^ met
+			layer = beside(around, layer) & within &^ met
 			met |= layer
 		}
 	}
@@ -134,21 +148,12 @@ func beside(around []uint32, word uint32) uint32 {
 	return reached
 }
 
-// linked gives the word of the nodes that a node is linked with, itself among them.
-func linked(around []uint32, from int) uint32 {
-	part := uint32(0)
-	for _, layer := range layers(around, from) {
-		part |= layer
-	}
-	return part
-}
-
 func distFrom(around []uint32, from int) []int {
 	row := make([]int, len(around))
 	for node := range row {
 		row[node] = -1
 	}
-	for far, layer := range layers(around, from) {
+	for far, layer := range layers(around, from, anywhere) {
 		for node := range nodesOf(layer) {
 			row[node] = far
 		}

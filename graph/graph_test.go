@@ -142,6 +142,45 @@ func TestNeighbours(t *testing.T) {
 	}
 }
 
+// Linked goes by no node that is not in the word, but for the one that it begins with.
+func TestLinked(t *testing.T) {
+	around, _ := Neighbours(api.Graph{N: 6, Edges: edgesOf([2]int{0, 1}, [2]int{1, 2}, [2]int{2, 3}, [2]int{3, 0}, [2]int{4, 3})})
+	for _, c := range []struct {
+		from         int
+		within, want uint32
+	}{
+		{0, math.MaxUint32, 0b011111},
+		{0, 0b111111, 0b011111},
+		{0, 0b110101, 0b000001},
+		{0, 0b110110, 0b000111},
+		{0, 0b011100, 0b011101},
+		{4, 0b000111, 0b010000},
+		{4, 0b001010, 0b011000},
+		{2, 0, 0b000100},
+		{5, math.MaxUint32, 0b100000},
+		{5, 0b011111, 0b100000},
+	} {
+		if got := Linked(around, c.from, c.within); got != c.want {
+			t.Errorf("from %d within %b: %b, want %b", c.from, c.within, got, c.want)
+		}
+	}
+}
+
+// IsNode at both ends, and far off.
+func TestIsNode(t *testing.T) {
+	for _, c := range []struct {
+		n, node int
+		want    bool
+	}{
+		{10, 0, true}, {10, 9, true}, {10, 10, false}, {10, -1, false}, {1, 0, true}, {0, 0, false}, {0, -1, false},
+		{10, math.MaxInt, false}, {10, math.MinInt, false},
+	} {
+		if got := IsNode(c.n, c.node); got != c.want {
+			t.Errorf("%d of %d nodes: %v", c.node, c.n, got)
+		}
+	}
+}
+
 // expect holds the three answers of a graph against what they are to be.
 func expect(t *testing.T, g api.Graph, degrees, parts []int, dist [][]int) {
 	t.Helper()
@@ -274,7 +313,7 @@ func TestStopEarly(t *testing.T) {
 			break
 		}
 	}
-	for far, layer := range layers([]uint32{0b110, 0b001, 0b001}, 1) {
+	for far, layer := range layers([]uint32{0b110, 0b001, 0b001}, 1, anywhere) {
 		got = append(got, far, int(layer))
 		if far == 1 {
 			break
