@@ -90,6 +90,18 @@ func IsNode(n, node int) bool {
 	return node >= 0 && node < n
 }
 
+// EachOnce says whether all of a list are nodes of n, at most 32, and none is there twice.
+func EachOnce(n int, list []int) bool {
+	seen := uint32(0)
+	for _, node := range list {
+		if !IsNode(n, node) || seen>>node&1 == 1 {
+			return false
+		}
+		seen |= 1 << node
+	}
+	return true
+}
+
 // anywhere is the word that keeps ways from nothing.
 const anywhere = math.MaxUint32
 

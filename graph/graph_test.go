@@ -181,6 +181,29 @@ func TestIsNode(t *testing.T) {
 	}
 }
 
+// EachOnce: nodes in any order, also fewer than there are, none twice; numbers that are no node, at both ends and far off.
+func TestEachOnce(t *testing.T) {
+	all := []int{31, 0}
+	for node := 1; node < 31; node++ {
+		all = append(all, node)
+	}
+	for _, c := range []struct {
+		n    int
+		list []int
+		want bool
+	}{
+		{0, nil, true}, {0, []int{}, true}, {3, nil, true}, {1, []int{0}, true}, {3, []int{2, 0, 1}, true}, {3, []int{2, 0}, true}, {10, []int{9}, true},
+		{32, all, true}, {31, all, false}, {32, append(slices.Clone(all), 31), false}, {32, append(slices.Clone(all), 0), false},
+		{0, []int{0}, false}, {1, []int{0, 0}, false}, {1, []int{1}, false}, {3, []int{0, 1, 0}, false}, {3, []int{1, 2, 2}, false}, {3, []int{0, 1, 2, 1}, false},
+		{3, []int{0, 1, 3}, false}, {3, []int{-1, 1, 2}, false}, {3, []int{0, math.MinInt}, false}, {3, []int{math.MaxInt, 0}, false}, {3, []int{1 << 32}, false}, {10, []int{32}, false},
+		{-1, nil, true}, {-1, []int{0}, false}, {math.MinInt, []int{-1}, false},
+	} {
+		if got := EachOnce(c.n, c.list); got != c.want {
+			t.Errorf("%v of %d nodes: %v", c.list, c.n, got)
+		}
+	}
+}
+
 // expect holds the three answers of a graph against what they are to be.
 func expect(t *testing.T, g api.Graph, degrees, parts []int, dist [][]int) {
 	t.Helper()
