@@ -102,6 +102,15 @@ func EachOnce(n int, list []int) bool {
 	return true
 }
 
+// WordOf gives the word of a list of nodes, all below 32; each may be there several times.
+func WordOf(list []int) uint32 {
+	word := uint32(0)
+	for _, node := range list {
+		word |= 1 << node
+	}
+	return word
+}
+
 // anywhere is the word that keeps ways from nothing.
 const anywhere = math.MaxUint32
 

@@ -204,6 +204,20 @@ func TestEachOnce(t *testing.T) {
 	}
 }
 
+// WordOf: nodes in any order, also several times.
+func TestWordOf(t *testing.T) {
+	for _, c := range []struct {
+		list []int
+		want uint32
+	}{
+		{nil, 0}, {[]int{}, 0}, {[]int{0}, 1}, {[]int{3, 0}, 0b1001}, {[]int{0, 3}, 0b1001}, {[]int{1, 1, 2}, 0b110}, {[]int{1, 2, 1, 1}, 0b110}, {[]int{31}, 1 << 31}, {[]int{9, 31, 0}, 1<<31 | 1<<9 | 1},
+	} {
+		if got := WordOf(c.list); got != c.want {
+			t.Errorf("%v: %b, want %b", c.list, got, c.want)
+		}
+	}
+}
+
 // expect holds the three answers of a graph against what they are to be.
 func expect(t *testing.T, g api.Graph, degrees, parts []int, dist [][]int) {
 	t.Helper()
